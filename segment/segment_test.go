@@ -1033,7 +1033,7 @@ func TestP12_4MayOfAll(t *testing.T) { // is one of the values from Min to Max?
 }
 
 func TestP12_4MayNulls(t *testing.T) {
-	for _, op := range append(ops, "", "?") {
+	for _, op := range ops {
 		for _, nulls := range []int{math.MinInt, -1, 0, 1, 5, math.MaxInt} {
 			for _, rows := range []int{math.MinInt, -1, 0, 1, 5, 6, math.MaxInt} {
 				z := segment.Zone{Nulls: nulls, Min: integer(5), Max: integer(9)}
@@ -1046,16 +1046,18 @@ func TestP12_4MayNulls(t *testing.T) {
 	}
 }
 
-func TestP12_4MayOtherOps(t *testing.T) {
-	z := segment.Zone{Nulls: 1, Min: integer(5), Max: integer(5)}
-	for _, op := range []string{"", "?", "==", "!=", "=<", "=>", "<<", "= ", " =", "=\x00", "<>=", "AND", "+", "IS", "like", "＝"} {
-		for _, n := range []int{math.MinInt, 4, 5, 6, math.MaxInt} {
-			checkMay(t, z, op, integer(n), 2, true)
+func TestP12_4MayOtherOps(t *testing.T) { // whatever the zone, the value and the rows
+	five, seven := integer(5), integer(7)
+	zones := []segment.Zone{{}, {Nulls: 3}, {Min: five, Max: five}, {Min: five, Max: seven}, {Nulls: 1, Min: five, Max: seven}, {Nulls: 3, Min: five, Max: seven}, {Nulls: math.MaxInt, Min: five, Max: seven}, {Nulls: -1, Min: seven, Max: five}, {Min: str("a"), Max: str("b")}, {Min: truth(0), Max: truth(1)}, {Min: float(nan), Max: float(nan)}, {Min: five, Max: str("a")}, {Max: five}, {Min: api.Value{Kind: 9}, Max: api.Value{Kind: -1}}}
+	values := []api.Value{null, integer(math.MinInt), integer(4), five, integer(6), seven, integer(math.MaxInt), str(""), str("a"), str("c"), truth(0), truth(1), float(0), float(nan), {Kind: 9, N: 5}, {Kind: -1}, {N: 5, S: "a"}}
+	for _, op := range []string{"", "?", "==", "!=", "=<", "=>", "<<", "= ", " =", "=\x00", "<>=", "><", "AND", "+", "IS", "like", "＝"} {
+		for _, z := range zones {
+			for _, v := range values {
+				for _, rows := range []int{math.MinInt, -1, 0, 1, 2, 3, 4, math.MaxInt} {
+					checkMay(t, z, op, v, rows, true)
+				}
+			}
 		}
-		checkMay(t, segment.Zone{Min: str("a"), Max: str("b")}, op, str("c"), 1, true)
-		checkMay(t, z, op, null, 2, false) // not in any relation
-		checkMay(t, z, op, str("a"), 2, false)
-		checkMay(t, z, op, integer(5), 1, false)
 	}
 }
 
